@@ -7,6 +7,7 @@ import (
 
 	"lapidary/api"
 	"lapidary/class"
+	"lapidary/value"
 	"lapidary/view"
 )
 
@@ -23,6 +24,26 @@ func definesNot(t *testing.T, v *view.View, c int64, source string, at int, want
 	refused(t, v, "Define of "+source, err, want)
 	if s != "" || got != at {
 		t.Errorf("Define(%d, %q) = %q at %d, want none at %d", c, source, s, got, at)
+	}
+}
+
+// asAhead asks that what a session did is as in a copy of the view that was taken ahead, and that the next new object is the same one.
+func asAhead(t *testing.T, v, ahead *view.View) {
+	t.Helper()
+	if got, want := v.News(), ahead.News(); !slices.Equal(got, want) {
+		t.Errorf("%d were made, want %d", len(got), len(want))
+	}
+	got, want := v.Changed(), ahead.Changed()
+	if !slices.EqualFunc(got, want, func(a, b value.Change) bool { return a.Oop == b.Oop && value.Same(a.Obj, b.Obj) }) {
+		t.Errorf("changed are %v, want %v", got, want)
+	}
+	for _, oop := range ahead.News() {
+		o, _ := ahead.Peek(oop)
+		same(t, v, oop, o)
+	}
+	next, err := v.Copy().Make(api.Obj{Class: 1})
+	if oop, e := ahead.Copy().Make(api.Obj{Class: 1}); next != oop || err != e {
+		t.Errorf("the next one is %d %v, want %d %v", next, err, oop, e)
 	}
 }
 
@@ -177,7 +198,7 @@ func TestDefineSlots(t *testing.T) {
 	}
 }
 
-// P13.4: the view's error at the Symbol, and at the String: nothing is found then that was not there.
+// P13.4: the view's error at the Symbol, and at the String: nothing is found then that was not there, and nothing is made.
 func TestDefineFull(t *testing.T) {
 	for left := range 4 {
 		v := world(t, map[int64]api.Obj{
@@ -196,13 +217,16 @@ func TestDefineFull(t *testing.T) {
 			if s != "" || at != 0 || err != api.ErrFull {
 				t.Errorf("Define with room for %d: %q %d %v", left, s, at, err)
 			}
+			asAhead(t, v, old)
 			find(t, v, 1, "bar", "", 0)
 			same(t, v, methodsOf+1, slots(class.Array, ref(110), ref(111)))
 		}
 		if left == 0 {
+			ahead := old.Copy()
 			if s, _, err := class.Define(old, 1, "foo ^2"); s != "" || err != api.ErrFull {
 				t.Error("Define anew without room", s, err)
 			}
+			asAhead(t, old, ahead)
 			find(t, old, 1, "foo", "foo ^1", 1)
 		} else {
 			defines(t, old, 1, "foo ^2", "foo")
@@ -210,17 +234,55 @@ func TestDefineFull(t *testing.T) {
 	}
 }
 
-// P13.4: methods that are not there: Put's error, if there is room for what is made ahead of it.
+// P13.4: a Define that is refused for want of room leaves the room that there was.
+func TestDefineLeavesRoom(t *testing.T) {
+	v := world(t, map[int64]api.Obj{
+		methodsOf + 1: slots(class.Array, ref(110), ref(111)),
+		110:           text(class.Symbol, "foo"),
+		111:           text(class.String, "foo ^1"),
+	})
+	fill(t, v, 1)
+	for range 3 {
+		if s, at, err := class.Define(v, 1, "bar"); s != "" || at != 0 || err != api.ErrFull {
+			t.Errorf("Define with room for one: %q %d %v", s, at, err)
+		}
+	}
+	defines(t, v, 1, "foo ^2", "foo")
+	find(t, v, 1, "foo", "foo ^2", 1)
+	same(t, v, 2*api.MaxOops, text(class.String, "foo ^2"))
+}
+
+// P13.4: methods that are not there: Put's error, if there is room for what is made ahead of it; nothing is made, nor written.
 func TestDefineNowhere(t *testing.T) {
-	for left, want := range []api.Errno{api.ErrFull, api.ErrFull, api.ErrNone, api.ErrNone} {
+	for left, want := range []api.Errno{api.ErrFull, api.ErrFull, api.ErrNone, api.ErrNone, api.ErrNone} {
 		v := world(t, map[int64]api.Obj{free: below(1, noNames, 3000)})
+		defines(t, v, 1, "bar", "bar")
 		fill(t, v, left)
-		if s, at, err := class.Define(v, free, "foo"); s != "" || at != 0 || err != want {
-			t.Errorf("Define with room for %d: %q %d %v, want %v", left, s, at, err, want)
+		ahead := v.Copy()
+		for range 2 {
+			if s, at, err := class.Define(v, free, "foo"); s != "" || at != 0 || err != want {
+				t.Errorf("Define with room for %d: %q %d %v, want %v", left, s, at, err, want)
+			}
+			asAhead(t, v, ahead)
 		}
-		if len(v.Writes()) != 0 {
-			t.Error("written were", v.Writes())
+	}
+	v := world(t, map[int64]api.Obj{free: below(1, noNames, 3000)})
+	definesNot(t, v, free, "foo", 0, api.ErrNone)
+	if got := v.Reads(); !slices.Equal(got, []int64{1, noNames, free, 3000}) {
+		t.Error("read were", got)
+	}
+}
+
+// P13.4: methods that are not there, though a new object would get their oop.
+func TestDefineNowhereYet(t *testing.T) {
+	for methods := int64(api.MaxOops + 2); methods < api.MaxOops+6; methods++ {
+		v := world(t, nil)
+		c := made(t, v, below(1, noNames, methods))
+		ahead := v.Copy()
+		if s, at, err := class.Define(v, c, "foo"); s != "" || at != 0 || err != api.ErrNone {
+			t.Errorf("Define with its methods at %d: %q %d %v", methods, s, at, err)
 		}
+		asAhead(t, v, ahead)
 	}
 }
 

@@ -69,6 +69,7 @@ func twice(slots, above []string) bool {
 	return false
 }
 
+// makeClass makes the objects one behind the other, up to the first one that errs, as the chapter has it: what was made ahead of that one stays, unlike in store.
 func makeClass(v *view.View, super int64, name string, slots []string) (int64, api.Errno) {
 	names, err := v.Make(text(String, joined(slots)))
 	if err != api.OK {
@@ -110,27 +111,39 @@ func Define(v *view.View, c int64, source string) (string, int, api.Errno) {
 	return steps.Sel, 0, api.OK
 }
 
-// store lets a source stand behind its selector among methods.
+// store lets a source stand behind its selector among methods. The view may refuse any part of that, so all of it is tried in a copy first: what is refused leaves nothing.
 func store(v *view.View, methods int64, selector, source string) api.Errno {
-	o, _ := v.Get(methods) // Put tells if it is not there
+	o, missing := v.Get(methods)
 	at, _, found := asking(v, selector)(o.Slots)
 	if !found {
 		if len(o.Slots)+2 > api.MaxSlots {
 			return api.ErrFull
 		}
-		symbol, err := v.Make(text(Symbol, selector))
+		at = len(o.Slots) + 1
+		o.Slots = append(o.Slots, api.Val{}, api.Val{})
+	}
+	lay := func(v *view.View) api.Errno {
+		if !found {
+			symbol, err := v.Make(text(Symbol, selector))
+			if err != api.OK {
+				return err
+			}
+			o.Slots[at-1] = ref(symbol)
+		}
+		oop, err := v.Make(text(String, source))
 		if err != api.OK {
 			return err
 		}
-		at = len(o.Slots) + 1
-		o.Slots = append(o.Slots, ref(symbol), api.Val{})
+		if missing != api.OK { // Put would not tell, where one of the new objects has just that oop
+			return missing
+		}
+		o.Slots[at] = ref(oop)
+		return v.Put(methods, o)
 	}
-	oop, err := v.Make(text(String, source))
-	if err != api.OK {
+	if err := lay(v.Copy()); err != api.OK {
 		return err
 	}
-	o.Slots[at] = ref(oop)
-	return v.Put(methods, o)
+	return lay(v)
 }
 
 // New makes an object of a class, and answers its oop.
