@@ -250,6 +250,41 @@ func TestManyDoubts(t *testing.T) {
 	isUp(t, l, one)
 }
 
+// P24.1: commits and sweeps that were in doubt, and were there, have the table that they have if they were told: by each object's last commit too, however often the model wrote all anew.
+func TestDoubtsAsIfTold(t *testing.T) {
+	a, b := fresh(t), fresh(t)
+	both := func(x told) {
+		can(t, b, x)
+		if x.e.Kind != api.EvCommit && x.e.Kind != api.EvSweep {
+			can(t, a, x)
+			return
+		}
+		can(t, a, told{x.e, dead()})
+		is(t, a, b.Last()-1, true)
+		can(t, a, crash(b.Last()))
+	}
+	for round := range int64(90) {
+		both(login(0))
+		for _, x := range does(0, "Root at: #x put: (String new: 900). nil", "nil") {
+			both(x)
+		}
+		both(commit(0, b.Last()+1))
+		can(t, b, plain(api.EvLogout, api.Reply{}))
+		if round%20 == 19 {
+			both(plain(api.EvSweep, number(19+min(1, round/20))))
+		}
+		x, y := a.Table(), b.Table()
+		for oop := int64(0); oop <= api.MaxOops; oop++ {
+			if x.Changed(oop) != y.Changed(oop) {
+				t.Fatalf("behind %d the object %d was changed by %d, and if it was told by %d", a.Last(), oop, x.Changed(oop), y.Changed(oop))
+			}
+		}
+		if x.First() != y.First() || !sameRecord(x.All(), y.All()) || t.Failed() {
+			t.Fatal("behind", a.Last(), "all is not as if it was told")
+		}
+	}
+}
+
 // P24.1: whatever else is asked while it is up is as of a model.
 func TestAsTheModelSays(t *testing.T) {
 	can(t, behind(t, put()...), commit(0, 2), plain(api.EvLogin, failed(api.ErrFull)), plain(api.EvFail, api.Reply{}), plain(api.EvCheckpoint, failed(api.ErrFull)))

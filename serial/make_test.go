@@ -101,14 +101,19 @@ type all struct {
 	last, first int64
 	open        []int
 	now         value.Record
+	changed     [api.MaxOops + 2]int64
 }
 
 func look(m *serial.Model) all {
-	return all{m.Last(), m.Table().First(), m.Open(), m.Table().All()}
+	a := all{last: m.Last(), first: m.Table().First(), open: m.Open(), now: m.Table().All()}
+	for oop, x := 0, m.Table(); oop < len(a.changed); oop++ {
+		a.changed[oop] = x.Changed(int64(oop))
+	}
+	return a
 }
 
 func (a all) same(b all) bool {
-	return a.last == b.last && a.first == b.first && slices.Equal(a.open, b.open) && sameRecord(a.now, b.now)
+	return a.last == b.last && a.first == b.first && slices.Equal(a.open, b.open) && sameRecord(a.now, b.now) && a.changed == b.changed
 }
 
 // cannot asks that a step can not be, that it changes nothing, and that nothing can be behind it.

@@ -102,12 +102,11 @@ func (m *Model) sweep(n int64) bool {
 
 // change makes room, and does what may change objects; it tells whether that is done, with just this number.
 func (m *Model) change(n int64, do func() (int64, bool)) bool {
-	before := m.Table()
 	m.makeRoom()
 	if got, done := do(); !done || got != n {
-		m.close(before)
 		return false
 	}
+	m.learn()
 	return true
 }
 
